@@ -454,7 +454,7 @@ func TestSureTermsAreNeverBlamed(t *testing.T) {
 }
 
 // A function that is cast at each of a hundred calls, with all that it is given: chaperones about
-// chaperones would be hundreds of millions.
+// chaperones would be called tens of millions of times.
 func TestChaperonesDoNotPileUp(t *testing.T) {
 	for _, is := range []string{"(to (to (to any num) num) num)", "(to (to (to any num) any) any)", "(to (to any (to any num)) (to any num))"} {
 		for pairs := 1; pairs <= 15; pairs++ {
